@@ -443,10 +443,15 @@ func MixWoods(list []Wood) (Wood, int64) {
 	return Wood{divideRow(sum.Wet, count), divideRow(sum.Heat, count), divideRow(sum.Fuel, count)}, OK
 }
 
+// bitsText returns the hexadecimal digits of 32 bits.
+func bitsText(bits uint32) string {
+	digits := strconv.FormatUint(uint64(bits), 16)
+	return strings.Repeat("0", digitCount-len(digits)) + digits
+}
+
 // NumberText returns the text of a number.
 func NumberText(a float32) string {
-	digits := strconv.FormatUint(uint64(numberBits(a)), 16)
-	return strings.Repeat("0", digitCount-len(digits)) + digits
+	return bitsText(numberBits(a))
 }
 
 // ReadNumber returns the number with a text.
