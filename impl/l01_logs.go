@@ -1,6 +1,7 @@
 package impl
 
 import (
+	"cmp"
 	"math"
 	"strconv"
 	"strings"
@@ -91,7 +92,7 @@ func isFinite(a float32) bool {
 }
 
 // isBetween is false for NaN, as all comparisons with it are.
-func isBetween(a, low, high float32) bool {
+func isBetween[T cmp.Ordered](a, low, high T) bool {
 	return a >= low && a <= high
 }
 
